@@ -165,6 +165,33 @@ func TestDoOfNoSuchValue(t *testing.T) {
 	}
 }
 
+func TestWrong(t *testing.T) {
+	for _, x := range []struct {
+		lines int
+		o     api.Op
+		want  api.Errno
+	}{
+		{2, load(0), api.OK},
+		{2, store(1, 255), api.OK},
+		{2, add(1, 0), api.OK},
+		{2, evict(1), api.OK},
+		{2, op(0, 0, 0), api.ErrKind},
+		{2, op(5, 2, 256), api.ErrKind},
+		{2, load(2), api.ErrRange},
+		{2, load(-1), api.ErrRange},
+		{0, load(0), api.ErrRange},
+		{-1, load(0), api.ErrRange},
+		{math.MinInt, load(math.MinInt), api.ErrRange},
+		{2, store(1, 256), api.ErrRange},
+		{2, evict(2), api.ErrRange},
+		{2, op(api.OpLoad, 0, -1), api.ErrRange},
+	} {
+		if got := flat.Wrong(x.lines, x.o); got != x.want {
+			t.Errorf("Wrong(%d, %v) = %d, want %d", x.lines, x.o, got, x.want)
+		}
+	}
+}
+
 func TestKindIsAheadOfRange(t *testing.T) {
 	for _, kind := range []int{0, 5, -1} {
 		refused(t, []int{1, 2}, op(kind, 2, 0), api.ErrKind)

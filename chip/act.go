@@ -54,7 +54,7 @@ func (a *act) arrive(n int) api.Errno {
 		return err
 	}
 	// A frame with a fault is as lost: that is no error of the step.
-	if m, fault := frame.Parse(a.config(), b); fault == api.OK {
+	if m, fault := frame.Parse(Config(a.chip), b); fault == api.OK {
 		a.hear(m)
 	}
 	return api.OK
@@ -88,7 +88,7 @@ func (a *act) spoil(n, bit int) api.Errno {
 	if n < 0 || n >= len(a.chip.Frames) {
 		return api.ErrNone
 	}
-	if _, fault := frame.Parse(a.config(), a.chip.Frames[n]); fault != api.OK {
+	if _, fault := frame.Parse(Config(a.chip), a.chip.Frames[n]); fault != api.OK {
 		return api.ErrFit
 	}
 	l, err := net.Spoil(a.chip.Frames, n, bit)
@@ -121,9 +121,4 @@ func (a *act) hasCore(node int) bool {
 // homeNode is the home's number: the one behind the cores'.
 func (a *act) homeNode() int {
 	return len(a.chip.Cores)
-}
-
-// config is of which kind the chip is: it does not say so itself.
-func (a *act) config() api.Config {
-	return api.Config{Cores: len(a.chip.Cores), Lines: len(a.chip.Home)}
 }

@@ -82,6 +82,20 @@ func TestNewChip(t *testing.T) {
 	}
 }
 
+func TestConfig(t *testing.T) {
+	for cores := 1; cores <= api.MaxCores; cores++ {
+		for lines := 1; lines <= api.MaxLines; lines++ {
+			want := api.Config{Cores: cores, Lines: lines}
+			if got := chip.Config(made(t, cores, lines)); got != want {
+				t.Errorf("Config of a chip of kind %v: %v", want, got)
+			}
+		}
+	}
+	if got := chip.Config(api.Chip{}); got != (api.Config{}) {
+		t.Errorf("Config of nothing: %v", got)
+	}
+}
+
 func TestNewIsNewEachTime(t *testing.T) {
 	x, y := made(t, 3, 2), made(t, 3, 2)
 	scribble(x)

@@ -137,7 +137,7 @@ func TestCalmAtLast(t *testing.T) {
 	}
 }
 
-// nextSteps are those that x may take, with losses; while few frames are on the way, more may come.
+// nextSteps are those that x may take, with losses; but no frame is there twice, and no node asks again, while three or more are on the way: there would be too many chips.
 func nextSteps(x api.Chip, ops []api.Op) []api.Step {
 	var out []api.Step
 	for core := range x.Cores {
@@ -157,7 +157,7 @@ func nextSteps(x api.Chip, ops []api.Op) []api.Step {
 	return out
 }
 
-// All chips that a number of steps make, not only those that walks come by.
+// All chips that nine of nextSteps make, not only those that walks come by.
 func TestAllChipsNearby(t *testing.T) {
 	ops := []api.Op{{Kind: api.OpLoad}, {Kind: api.OpAdd, Value: 1}, {Kind: api.OpEvict}}
 	seen := map[string]bool{}

@@ -269,15 +269,18 @@ func TestCalm(t *testing.T) {
 	for phase := -1; phase <= api.Granting+1; phase++ {
 		x := with(t, func(x api.Chip) { x.Home[1].Phase = phase })
 		tells(t, "phase", check.Calm(x), phase == api.Idle)
+		tells(t, "phase, settled", check.Settled(x), phase == api.Idle)
 	}
 	for kind := range api.OpEvict + 1 {
 		x := with(t, func(x api.Chip) { x.Cores[2].Wait.Kind = kind })
 		tells(t, "what waits", check.Calm(x), kind == 0)
+		tells(t, "what waits, settled", check.Settled(x), kind == 0)
 	}
 	for _, frames := range [][][]byte{nil, {}, {nil}, {{}}, {make([]byte, api.FrameSize)}} {
 		x := made(t, 3, 2)
 		x.Frames = frames
 		tells(t, "on the way", check.Calm(x), len(frames) == 0)
+		tells(t, "on the way, settled", check.Settled(x), true)
 	}
 	// Calm is no more than that: cores may have lines, and what waited once means nothing.
 	x := with(t, func(x api.Chip) {
@@ -286,6 +289,7 @@ func TestCalm(t *testing.T) {
 		x.Home[1].Owner, x.Home[1].Turn, x.Home[1].Need = 2, 5, 1
 	})
 	tells(t, "all else", check.Calm(x), true)
+	tells(t, "all else, settled", check.Settled(x), true)
 }
 
 // faults are ways in which a chip isn't as it must be, in the order in which they are told.
@@ -399,7 +403,7 @@ func answers(x api.Chip) []int {
 		}
 		return 0
 	}
-	out := []int{flag(check.Alone(x)), flag(check.Same(x)), flag(check.Known(x)), flag(check.Calm(x)), int(check.Wrong(x)), check.Spoilt(x)}
+	out := []int{flag(check.Alone(x)), flag(check.Same(x)), flag(check.Known(x)), flag(check.Calm(x)), flag(check.Settled(x)), int(check.Wrong(x)), check.Spoilt(x)}
 	for at := -1; at <= len(x.Home); at++ {
 		out = append(out, check.Value(x, at))
 	}
@@ -468,7 +472,7 @@ func TestChipHandedInIsOnlyRead(t *testing.T) {
 func TestNoEntries(t *testing.T) {
 	none := api.Chip{Cores: []api.Core{}, Home: []api.Entry{}, Frames: [][]byte{}}
 	for _, x := range []api.Chip{{}, none, {Cores: []api.Core{{}}}, {Cores: []api.Core{{Lines: []api.Line{}}}}} {
-		if got := answers(x); !slices.Equal(got, []int{1, 1, 1, 1, 0, 0, 0, 0}) {
+		if got := answers(x); !slices.Equal(got, []int{1, 1, 1, 1, 1, 0, 0, 0, 0}) {
 			t.Errorf("%v: %v", x, got)
 		}
 	}
